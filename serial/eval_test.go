@@ -8,6 +8,7 @@ import (
 	"plunder/api"
 	"plunder/ops"
 	"plunder/prog"
+	"plunder/samples"
 	"plunder/serial"
 )
 
@@ -41,18 +42,18 @@ func value(t *testing.T, what string, p api.Program, args []int64, work int, wan
 
 // The chapter's examples of Eval.
 func TestEvalExamples(t *testing.T) {
-	comes(t, "1", sum(), []int64{0}, 100, api.Value{V: 0, Work: 2, Tasks: 1, Depth: 1, Span: 2})
-	comes(t, "2", sum(), []int64{1}, 100, api.Value{V: 1, Work: 10, Tasks: 2, Depth: 2, Span: 10})
-	comes(t, "3", sum(), []int64{3}, 26, api.Value{V: 6, Work: 26, Tasks: 4, Depth: 4, Span: 26})
-	fails(t, "3", sum(), []int64{3}, 25, api.ErrFuel)
-	fails(t, "5", sum(), []int64{}, 9, api.ErrArity)
-	fails(t, "5", sum(), []int64{}, -1, api.ErrArity)
-	fails(t, "5", sum(), []int64{1}, -1, api.ErrArg)
+	comes(t, "1", samples.Sum(), []int64{0}, 100, api.Value{V: 0, Work: 2, Tasks: 1, Depth: 1, Span: 2})
+	comes(t, "2", samples.Sum(), []int64{1}, 100, api.Value{V: 1, Work: 10, Tasks: 2, Depth: 2, Span: 10})
+	comes(t, "3", samples.Sum(), []int64{3}, 26, api.Value{V: 6, Work: 26, Tasks: 4, Depth: 4, Span: 26})
+	fails(t, "3", samples.Sum(), []int64{3}, 25, api.ErrFuel)
+	fails(t, "5", samples.Sum(), []int64{}, 9, api.ErrArity)
+	fails(t, "5", samples.Sum(), []int64{}, -1, api.ErrArity)
+	fails(t, "5", samples.Sum(), []int64{1}, -1, api.ErrArg)
 	fails(t, "5", program(), nil, 9, api.ErrProgram)
-	fails(t, "6", sum(), []int64{-1}, api.MaxFuel, api.ErrDeep)
-	fails(t, "6", sum(), []int64{-1}, 16384, api.ErrDeep)
-	fails(t, "6", sum(), []int64{-1}, 16383, api.ErrFuel)
-	comes(t, "7", pair(), nil, 11, api.Value{V: -1, Work: 11, Tasks: 3, Depth: 2, Span: 9})
+	fails(t, "6", samples.Sum(), []int64{-1}, api.MaxFuel, api.ErrDeep)
+	fails(t, "6", samples.Sum(), []int64{-1}, 16384, api.ErrDeep)
+	fails(t, "6", samples.Sum(), []int64{-1}, 16383, api.ErrFuel)
+	comes(t, "7", samples.Pair(), nil, 11, api.Value{V: -1, Work: 11, Tasks: 3, Depth: 2, Span: 9})
 }
 
 // 6.1: the arguments stand in the first registers, in order, and the others hold 0.
@@ -228,10 +229,10 @@ func TestDepth(t *testing.T) {
 	wide := program(fn(1, 3, 1, spawn(0, 1, 0), sync(), konst(1, 1), arith(0, 0, api.Sub, 1), branch(0, 0), give(2)), fn(0, 1, 0, give(0)))
 	comes(t, "6.4", wide, []int64{5000}, api.MaxFuel, api.Value{V: 0, Work: 30001, Tasks: 5001, Depth: 2, Span: 30001})
 	for _, n := range []int64{0, 1, 2, 100, 4094, 4095} {
-		comes(t, "6.4", sum(), []int64{n}, api.MaxFuel, api.Value{V: n * (n + 1) / 2, Work: int(8*n + 2), Tasks: int(n + 1), Depth: int(n + 1), Span: int(8*n + 2)})
+		comes(t, "6.4", samples.Sum(), []int64{n}, api.MaxFuel, api.Value{V: n * (n + 1) / 2, Work: int(8*n + 2), Tasks: int(n + 1), Depth: int(n + 1), Span: int(8*n + 2)})
 	}
 	for _, n := range []int64{4096, 4097, 100000, -1, math.MaxInt64, math.MinInt64} {
-		fails(t, "6.5", sum(), []int64{n}, api.MaxFuel, api.ErrDeep)
+		fails(t, "6.5", samples.Sum(), []int64{n}, api.MaxFuel, api.ErrDeep)
 	}
 }
 
@@ -329,7 +330,7 @@ func TestSpan(t *testing.T) {
 	span := []int{4, 4}
 	for n := 2; n < 12; n++ {
 		span = append(span, max(6+span[n-1], 8+span[n-2])+5)
-		if v, err := serial.Eval(program(fib()), []int64{int64(n)}, api.MaxFuel); err != api.OK || v.Span != span[n] || v.Depth != n {
+		if v, err := serial.Eval(samples.Fib(), []int64{int64(n)}, api.MaxFuel); err != api.OK || v.Span != span[n] || v.Depth != n {
 			t.Errorf("6.6: fib(%d): %+v, %d, want the span %d, the depth %d", n, v, err, span[n], n)
 		}
 	}

@@ -3,13 +3,13 @@ package serial_test
 import (
 	"fmt"
 	"math/rand"
-	"reflect"
 	"slices"
 	gosync "sync"
 	"testing"
 
 	"plunder/api"
 	"plunder/prog"
+	"plunder/samples"
 	"plunder/serial"
 )
 
@@ -19,10 +19,10 @@ func TestModel(t *testing.T) {
 	seen := map[string]int{}
 	for range 8000 {
 		p := drawn(t, r, true)
-		args := drawArgs(r, p)
+		args := samples.Args(r.Intn, p)
 		fuel := []int{r.Intn(20), r.Intn(200), 500, 500, 2000, 2000, 2000, 40000}[r.Intn(8)]
 		want := modelRun(p, args, fuel)
-		same, sameArgs := copied(p), append(slices.Clone(args), 77)
+		same, sameArgs := samples.Copied(p), append(slices.Clone(args), 77)
 		v, err := serial.Eval(same, sameArgs[:len(args)], fuel)
 		if v != want.value || err != want.err {
 			t.Fatalf("6.5: Eval(%v, %v, %d) = %+v, %d, want %+v, %d", p, args, fuel, v, err, want.value, want.err)
@@ -31,7 +31,7 @@ func TestModel(t *testing.T) {
 		if !slices.Equal(l, want.nodes) || err != want.err {
 			t.Fatalf("6.7: Tree(%v, %v, %d) = %+v, %d, want %+v, %d", p, args, fuel, l, err, want.nodes, want.err)
 		}
-		if !untouched(same, p) || !slices.Equal(sameArgs, append(slices.Clone(args), 77)) {
+		if !samples.Untouched(same, p) || !slices.Equal(sameArgs, append(slices.Clone(args), 77)) {
 			t.Fatalf("6.12: %v, %v were changed to %v, %v", p, args, same, sameArgs)
 		}
 		seen[fmt.Sprint("error ", err)]++
@@ -52,24 +52,11 @@ func TestModel(t *testing.T) {
 // drawn draws a program, and asks whether it is valid.
 func drawn(t *testing.T, r *rand.Rand, peds bool) api.Program {
 	t.Helper()
-	p := draw(r, peds)
+	p := samples.Draw(r.Intn, peds)
 	if fault := prog.Check(p); fault.Err != api.OK {
 		t.Fatalf("a drawn program is not valid: %v: %v", p, fault)
 	}
 	return p
-}
-
-// untouched tells whether a program that was copied is as it was, with the room behind the ends of its lists.
-func untouched(p, was api.Program) bool {
-	if !reflect.DeepEqual(p, was) || p.Funcs[:len(p.Funcs)+1][len(p.Funcs)].Regs != -3 {
-		return false
-	}
-	for _, f := range p.Funcs {
-		if f.Code[:len(f.Code)+1][len(f.Code)].Kind != -7 {
-			return false
-		}
-	}
-	return true
 }
 
 // 6.8: from Work on fuel changes nothing, below it there is none that does.
@@ -78,7 +65,7 @@ func TestMoreFuel(t *testing.T) {
 	ended := 0
 	for range 1500 {
 		p := drawn(t, r, true)
-		args := drawArgs(r, p)
+		args := samples.Args(r.Intn, p)
 		want, err := serial.Eval(p, args, 3000)
 		if err != api.OK {
 			continue
@@ -106,7 +93,7 @@ func TestCounts(t *testing.T) {
 	alone, several := 0, 0
 	for range 4000 {
 		p := drawn(t, r, true)
-		args := drawArgs(r, p)
+		args := samples.Args(r.Intn, p)
 		v, err := serial.Eval(p, args, 5000)
 		l, treeErr := serial.Tree(p, args, 5000)
 		if err != treeErr || (err != api.OK) != (len(l) == 0) {
@@ -189,7 +176,7 @@ func TestTaskAsEntry(t *testing.T) {
 	asked := 0
 	for range 3000 {
 		p := drawn(t, r, false)
-		args := drawArgs(r, p)
+		args := samples.Args(r.Intn, p)
 		l, err := serial.Tree(p, args, 2000)
 		if err != api.OK {
 			continue
@@ -218,7 +205,7 @@ func TestTaskByPedigree(t *testing.T) {
 		p := drawn(t, r, true)
 		values, first := map[string]int64{}, map[string]int64{}
 		for range 6 {
-			args := drawArgs(r, p)
+			args := samples.Args(r.Intn, p)
 			h := modelRun(p, args, 1000)
 			l, _ := serial.Tree(p, args, 1000)
 			for number := 1; number < len(l); number++ {
@@ -247,14 +234,14 @@ func TestTaskByPedigree(t *testing.T) {
 
 // 6.12: the same arguments, the same answers, also from calls side by side.
 func TestSideBySide(t *testing.T) {
-	p := program(fib())
+	p := samples.Fib()
 	want, _ := serial.Eval(p, []int64{12}, api.MaxFuel)
 	nodes, _ := serial.Tree(p, []int64{12}, api.MaxFuel)
 	var all gosync.WaitGroup
 	for range 8 {
 		all.Go(func() {
 			for range 5 {
-				serial.Eval(sum(), []int64{-1}, api.MaxFuel)
+				serial.Eval(samples.Sum(), []int64{-1}, api.MaxFuel)
 				v, err := serial.Eval(p, []int64{12}, api.MaxFuel)
 				l, treeErr := serial.Tree(p, []int64{12}, api.MaxFuel)
 				if v != want || err != api.OK || treeErr != api.OK || !slices.Equal(l, nodes) {

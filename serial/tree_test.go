@@ -5,6 +5,7 @@ import (
 	"testing"
 
 	"plunder/api"
+	"plunder/samples"
 	"plunder/serial"
 )
 
@@ -18,12 +19,12 @@ func tells(t *testing.T, what string, p api.Program, args []int64, fuel int, wan
 
 // The chapter's examples of Tree, and its example 7 as a tree.
 func TestTreeExamples(t *testing.T) {
-	tells(t, "4", sum(), []int64{1}, 10, api.Node{Parent: -1, Work: 8, Ped: 1, Arg: 1, V: 1}, api.Node{Work: 2, Ped: 1000004})
-	tells(t, "7", pair(), nil, 11,
+	tells(t, "4", samples.Sum(), []int64{1}, 10, api.Node{Parent: -1, Work: 8, Ped: 1, Arg: 1, V: 1}, api.Node{Work: 2, Ped: 1000004})
+	tells(t, "7", samples.Pair(), nil, 11,
 		api.Node{Parent: -1, Work: 7, Ped: 1, V: -1},
 		api.Node{Func: 1, Work: 2, Ped: 1000004, V: 1000004},
 		api.Node{Index: 1, Func: 1, Work: 2, Ped: 1000005, V: 1000005})
-	fails(t, "4", sum(), []int64{1}, 9, api.ErrFuel)
+	fails(t, "4", samples.Sum(), []int64{1}, 9, api.ErrFuel)
 }
 
 // 6.7: the whole of one child's tree stands ahead of the next child; Arg is what a task was begun with.
@@ -50,7 +51,7 @@ func TestTreeOrder(t *testing.T) {
 
 // 6.7: the greatest trees: as deep as may be, and of as many tasks as the fuel allows.
 func TestTreeSizes(t *testing.T) {
-	l, err := serial.Tree(sum(), []int64{4095}, api.MaxFuel)
+	l, err := serial.Tree(samples.Sum(), []int64{4095}, api.MaxFuel)
 	if err != api.OK || len(l) != 4096 {
 		t.Fatalf("6.7: %d nodes, %d", len(l), err)
 	}
@@ -84,7 +85,7 @@ func TestTreeSizes(t *testing.T) {
 
 // 6.12: what Tree tells is memory of its own.
 func TestTreeMemory(t *testing.T) {
-	p := program(fib())
+	p := samples.Fib()
 	first, _ := serial.Tree(p, []int64{5}, 1000)
 	kept := slices.Clone(first)
 	clear(first[:cap(first)])
@@ -92,7 +93,7 @@ func TestTreeMemory(t *testing.T) {
 		t.Errorf("6.12: a tree shows a change of an earlier one: %v, want %v", again, kept)
 	}
 	clear(p.Funcs[0].Code)
-	again, _ := serial.Tree(program(fib()), []int64{5}, 1000)
+	again, _ := serial.Tree(samples.Fib(), []int64{5}, 1000)
 	if !slices.Equal(again, kept) {
 		t.Errorf("6.12: a tree shows a change of an earlier program: %v, want %v", again, kept)
 	}
