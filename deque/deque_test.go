@@ -8,67 +8,8 @@ import (
 	"plunder/api"
 	"plunder/cells"
 	"plunder/deque"
+	"plunder/spy"
 )
-
-// spy is a memory that notes every access that is asked of it, refused or not, and refuses from some access on.
-type spy struct {
-	in     cells.Mem
-	asked  []api.Act
-	refuse int // the number of the first access that is refused
-	err    api.Errno
-}
-
-// noEnd: as many accesses as no test makes.
-const noEnd = 1 << 30
-
-func newSpy(in cells.Mem) *spy { return &spy{in: in, refuse: noEnd, err: api.ErrAct} }
-
-func (s *spy) ask(a api.Act) bool {
-	s.asked = append(s.asked, a)
-	return len(s.asked) <= s.refuse
-}
-
-func (s *spy) Load(addr int) (int64, api.Errno) {
-	if !s.ask(api.Act{Kind: api.AcLoad, Addr: addr}) {
-		return 99, s.err
-	}
-	return s.in.Load(addr)
-}
-
-func (s *spy) Store(addr int, v int64) api.Errno {
-	if !s.ask(api.Act{Kind: api.AcStore, Addr: addr, A: v}) {
-		return s.err
-	}
-	return s.in.Store(addr, v)
-}
-
-func (s *spy) CAS(addr int, old, next int64) (bool, api.Errno) {
-	if !s.ask(api.Act{Kind: api.AcCAS, Addr: addr, A: old, B: next}) {
-		return true, s.err
-	}
-	return s.in.CAS(addr, old, next)
-}
-
-func (s *spy) Add(addr int, d int64) (int64, api.Errno) {
-	if !s.ask(api.Act{Kind: api.AcAdd, Addr: addr, A: d}) {
-		return 99, s.err
-	}
-	return s.in.Add(addr, d)
-}
-
-func (s *spy) Reserve(n int) (int, api.Errno) {
-	if !s.ask(api.Act{Kind: api.AcReserve, A: int64(n)}) {
-		return 0, s.err
-	}
-	return s.in.Reserve(n)
-}
-
-func loads(addr int) api.Act           { return api.Act{Kind: api.AcLoad, Addr: addr} }
-func stores(addr int, v int64) api.Act { return api.Act{Kind: api.AcStore, Addr: addr, A: v} }
-func swaps(addr int, old, next int64) api.Act {
-	return api.Act{Kind: api.AcCAS, Addr: addr, A: old, B: next}
-}
-func reserves(n int64) api.Act { return api.Act{Kind: api.AcReserve, A: n} }
 
 func arena(t *testing.T, size int) *cells.Arena {
 	t.Helper()
@@ -92,14 +33,14 @@ func lay(t *testing.T, m cells.Mem, first, most int) deque.Deque {
 func TestNewAccesses(t *testing.T) {
 	m := arena(t, 40)
 	m.Reserve(11)
-	s := newSpy(m)
+	s := spy.New(m)
 	d, err := deque.New(s, 5, 9)
 	if err != api.OK || d != (deque.Deque{Base: 11, Most: 9}) {
 		t.Errorf("New(5, 9) = %v, %d", d, err)
 	}
-	want := []api.Act{reserves(9), stores(13, 14), stores(14, 5)}
-	if !slices.Equal(s.asked, want) {
-		t.Errorf("New asked for %v, want %v", s.asked, want)
+	want := []api.Act{spy.Reserve(9), spy.Store(13, 14), spy.Store(14, 5)}
+	if !slices.Equal(s.Asked, want) {
+		t.Errorf("New asked for %v, want %v", s.Asked, want)
 	}
 	if got := m.Cells()[11:]; !slices.Equal(got, []int64{0, 0, 14, 5, 0, 0, 0, 0, 0}) {
 		t.Errorf("New left %v", got)
@@ -109,10 +50,10 @@ func TestNewAccesses(t *testing.T) {
 // 3.1: a refused access ends New with its error, whichever of the three it is.
 func TestNewRefused(t *testing.T) {
 	for n := range 3 {
-		s := newSpy(arena(t, 40))
-		s.refuse, s.err = n, api.ErrWindow
-		if d, err := deque.New(s, 2, 3); err != api.ErrWindow || d != (deque.Deque{}) || len(s.asked) != n+1 {
-			t.Errorf("the access %d refused: %v, %d, asked for %v", n, d, err, s.asked)
+		s := spy.New(arena(t, 40))
+		s.Refuse, s.Err = n, api.ErrWindow
+		if d, err := deque.New(s, 2, 3); err != api.ErrWindow || d != (deque.Deque{}) || len(s.Asked) != n+1 {
+			t.Errorf("the access %d refused: %v, %d, asked for %v", n, d, err, s.Asked)
 		}
 	}
 	var none *cells.Arena
@@ -131,9 +72,9 @@ func TestNewRefused(t *testing.T) {
 func TestNewWrongCapacities(t *testing.T) {
 	least, greatest := math.MinInt, math.MaxInt
 	for _, c := range [][2]int{{0, 0}, {0, 1}, {-1, 5}, {2, 1}, {1, 4097}, {4097, 4097}, {1, 0}, {1, -1}, {least, least}, {greatest, greatest}, {least, 1}, {1, greatest}, {4096, 4095}} {
-		s := newSpy(arena(t, 9000))
-		if d, err := deque.New(s, c[0], c[1]); err != api.ErrCap || d != (deque.Deque{}) || len(s.asked) != 0 {
-			t.Errorf("New%v = %v, %d, asked for %v", c, d, err, s.asked)
+		s := spy.New(arena(t, 9000))
+		if d, err := deque.New(s, c[0], c[1]); err != api.ErrCap || d != (deque.Deque{}) || len(s.Asked) != 0 {
+			t.Errorf("New%v = %v, %d, asked for %v", c, d, err, s.Asked)
 		}
 		if n := deque.Cells(c[0], c[1]); n != 0 {
 			t.Errorf("Cells%v = %d", c, n)
@@ -161,24 +102,13 @@ func TestCells(t *testing.T) {
 			m := arena(t, 200)
 			d := lay(t, m, first, most)
 			for i := range most {
-				if code, _ := through(m, deque.Push(d, int64(i))); code != api.Pushed {
+				if code, _ := machine.Through(m, deque.Push(d, int64(i))); code != api.Pushed {
 					t.Fatalf("a push into New(%d, %d): %d", first, most, code)
 				}
 			}
-			if code, _ := through(m, deque.Push(d, 0)); code != api.Full || m.Mark() != deque.Cells(first, most) {
+			if code, _ := machine.Through(m, deque.Push(d, 0)); code != api.Full || m.Mark() != deque.Cells(first, most) {
 				t.Errorf("New(%d, %d), filled: a push more answers %d, %d cells, Cells tells %d", first, most, code, m.Mark(), deque.Cells(first, most))
 			}
 		}
 	}
-}
-
-// through steps a machine to its end, if that comes in time.
-func through(m cells.Mem, o deque.Op) (int, int64) {
-	for range 10000 {
-		o = deque.Step(m, o)
-		if code, v := deque.Answer(o); code != api.Running {
-			return code, v
-		}
-	}
-	return api.Running, 0
 }

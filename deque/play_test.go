@@ -9,6 +9,7 @@ import (
 	"plunder/api"
 	"plunder/deque"
 	"plunder/ops"
+	"plunder/spy"
 )
 
 func push(v int64) api.Todo { return api.Todo{Kind: api.TPush, V: v} }
@@ -33,12 +34,12 @@ func TestExamples(t *testing.T) {
 	todos := []api.Todo{push(7), push(8), push(9), pop()}
 	picks := slices.Concat(rep(21, -4), rep(6, math.MaxInt), rep(8, math.MinInt), rep(3, 6))
 	log := []api.Access{
-		seen(0, loads(1), 0), seen(0, loads(0), 0), seen(0, loads(2), 3), seen(0, loads(3), 1), seen(0, stores(4, 7), 0), seen(0, stores(1, 1), 0),
-		seen(0, loads(1), 1), seen(0, loads(0), 0), seen(0, loads(2), 3), seen(0, loads(3), 1),
-		{Kind: api.AcReserve, Addr: 5, A: 3, OK: true}, seen(0, stores(5, 2), 0), seen(0, loads(4), 7), seen(0, stores(6, 7), 0), seen(0, stores(2, 5), 0), seen(0, stores(7, 8), 0), seen(0, stores(1, 2), 0),
-		seen(0, loads(1), 2), seen(0, loads(0), 0), seen(0, loads(2), 5), seen(0, loads(5), 2),
-		seen(1, loads(0), 0), seen(1, loads(1), 2), seen(1, loads(2), 5), seen(1, loads(5), 2), seen(1, loads(6), 7), seen(1, swaps(0, 0, 1), 0),
-		seen(0, loads(1), 2), seen(0, loads(2), 5), seen(0, stores(1, 1), 0), seen(0, loads(0), 1), seen(0, loads(5), 2), seen(0, loads(7), 8), seen(0, swaps(0, 1, 2), 0), seen(0, stores(1, 2), 0),
+		seen(0, spy.Load(1), 0), seen(0, spy.Load(0), 0), seen(0, spy.Load(2), 3), seen(0, spy.Load(3), 1), seen(0, spy.Store(4, 7), 0), seen(0, spy.Store(1, 1), 0),
+		seen(0, spy.Load(1), 1), seen(0, spy.Load(0), 0), seen(0, spy.Load(2), 3), seen(0, spy.Load(3), 1),
+		{Kind: api.AcReserve, Addr: 5, A: 3, OK: true}, seen(0, spy.Store(5, 2), 0), seen(0, spy.Load(4), 7), seen(0, spy.Store(6, 7), 0), seen(0, spy.Store(2, 5), 0), seen(0, spy.Store(7, 8), 0), seen(0, spy.Store(1, 2), 0),
+		seen(0, spy.Load(1), 2), seen(0, spy.Load(0), 0), seen(0, spy.Load(2), 5), seen(0, spy.Load(5), 2),
+		seen(1, spy.Load(0), 0), seen(1, spy.Load(1), 2), seen(1, spy.Load(2), 5), seen(1, spy.Load(5), 2), seen(1, spy.Load(6), 7), seen(1, spy.CAS(0, 0, 1), 0),
+		seen(0, spy.Load(1), 2), seen(0, spy.Load(2), 5), seen(0, spy.Store(1, 1), 0), seen(0, spy.Load(0), 1), seen(0, spy.Load(5), 2), seen(0, spy.Load(7), 8), seen(0, spy.CAS(0, 1, 2), 0), seen(0, spy.Store(1, 2), 0),
 	}
 	calls := []api.Call{
 		{Who: 0, Kind: api.TPush, Arg: 7, Begin: 0, End: 5, Code: api.Pushed},
@@ -78,7 +79,7 @@ func TestMoreExamples(t *testing.T) {
 	r, err := deque.Play(1, 1, []api.Todo{pop()}, 0, rep(5, 0))
 	want := api.DequeRun{
 		Calls: []api.Call{{Kind: api.TPop, Begin: 0, End: 4, Code: api.Empty}},
-		Log:   []api.Access{seen(0, loads(1), 0), seen(0, loads(2), 3), seen(0, stores(1, -1), 0), seen(0, loads(0), 0), seen(0, stores(1, 0), 0)},
+		Log:   []api.Access{seen(0, spy.Load(1), 0), seen(0, spy.Load(2), 3), seen(0, spy.Store(1, -1), 0), seen(0, spy.Load(0), 0), seen(0, spy.Store(1, 0), 0)},
 	}
 	if err != api.OK || !sameRun(r, want) {
 		t.Errorf("a pop of nothing: %v, %d, want %v", r, err, want)
