@@ -189,20 +189,11 @@ func TestLongScripts(t *testing.T) {
 			}
 		}
 		thieves := rng.Intn(api.MaxThieves + 1)
-		checkPlay(t, first, most, todos, thieves, bursts(rng, rng.Intn(900), 1+thieves))
+		checkPlay(t, first, most, todos, thieves, spy.Picks(rng.Intn, rng.Intn(900), 1+thieves))
 		if t.Failed() {
 			return
 		}
 	}
-}
-
-func bursts(rng *rand.Rand, n, actors int) []int {
-	var picks []int
-	longest := 1 + rng.Intn(8)
-	for len(picks) < n {
-		picks = append(picks, rep(1+rng.Intn(longest), rng.Intn(actors)-actors*rng.Intn(3))...)
-	}
-	return picks
 }
 
 // checkPlay holds a play against 3.9 to 3.13. The elements that are pushed are above 0 and rise.

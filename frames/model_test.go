@@ -1,10 +1,9 @@
 package frames_test
 
 import (
-	"iter"
-
 	"plunder/api"
 	"plunder/ops"
+	"plunder/spy"
 )
 
 // model is 8.9 by the chapter's words: each actor is a routine that is written from its beginning to its end and waits for a pick ahead of each access.
@@ -12,20 +11,16 @@ type model struct {
 	rounds []int
 	cells  []int64
 	who    int
-	alive  []*routine
+	alive  []routine
 	born   int
 	run    api.JoinRun
 	choice []int // how many could be picked, pick by pick
 }
 
 type routine struct {
+	*spy.Routine
 	number int
-	next   func() (struct{}, bool)
-	stop   func()
 }
-
-// stopped is what a routine that will not be picked any more is left by.
-type stopped struct{}
 
 func modelled(rounds, picks []int) (api.JoinRun, []int) {
 	f := 1
@@ -46,7 +41,7 @@ func modelled(rounds, picks []int) (api.JoinRun, []int) {
 		m.run.Steps++
 	}
 	for _, r := range m.alive {
-		r.stop()
+		r.Stop()
 	}
 	for c := range f {
 		m.run.Marks = append(m.run.Marks, m.cells[1+10*c+1])
@@ -57,29 +52,16 @@ func modelled(rounds, picks []int) (api.JoinRun, []int) {
 func (m *model) pick(place int) {
 	r := m.alive[place]
 	m.who = r.number
-	if _, ok := r.next(); !ok {
+	if !r.Pick() {
 		m.alive = append(m.alive[:place:place], m.alive[place+1:]...)
 	}
 }
 
 // comes lets a new actor come to be, and takes it to its first wait.
 func (m *model) comes(plays func(wait func())) {
-	r := &routine{number: m.born}
+	number := m.born
 	m.born++
-	r.next, r.stop = iter.Pull(func(yield func(struct{}) bool) {
-		defer func() {
-			if x := recover(); x != nil && x != (stopped{}) {
-				panic(x)
-			}
-		}()
-		plays(func() {
-			if !yield(struct{}{}) {
-				panic(stopped{})
-			}
-		})
-	})
-	r.next()
-	m.alive = append(m.alive, r)
+	m.alive = append(m.alive, routine{Routine: spy.Begin(plays), number: number})
 }
 
 func (m *model) note(a api.Access) {

@@ -8,6 +8,7 @@ import (
 
 	"plunder/api"
 	"plunder/frames"
+	"plunder/spy"
 )
 
 func sameRun(a, b api.JoinRun) bool {
@@ -163,27 +164,8 @@ func TestDrawnPlays(t *testing.T) {
 		} else {
 			n = rng.Intn(n + 2)
 		}
-		checkPlay(t, rounds, drawnPicks(rng, n))
+		checkPlay(t, rounds, spy.Picks(rng.Intn, n, 8))
 	}
-}
-
-// drawnPicks has bursts of one pick, so that some actors get far ahead of the others.
-func drawnPicks(rng *rand.Rand, n int) []int {
-	picks := make([]int, n)
-	longest := 1 + rng.Intn(6)
-	for i := 0; i < n; {
-		x := rng.Intn(24) - 12
-		if rng.Intn(9) == 0 {
-			x = int(rng.Uint64())
-		}
-		for range 1 + rng.Intn(longest) {
-			if i < n {
-				picks[i] = x
-				i++
-			}
-		}
-	}
-	return picks
 }
 
 // 8.10: more picks than a play takes are not looked at.
@@ -229,7 +211,7 @@ func copied(r api.JoinRun) api.JoinRun {
 // 8.12: no list that is answered shares memory with another one, or with a later answer's.
 func TestPlayAnswersNewLists(t *testing.T) {
 	rounds := []int{3, 1, 0, 2, 8}
-	picks := drawnPicks(rand.New(rand.NewSource(5)), whole(rounds))
+	picks := spy.Picks(rand.New(rand.NewSource(5)).Intn, whole(rounds), 8)
 	r, _ := frames.Play(rounds, picks)
 	kept := copied(r)
 	for i := range r.Reads {

@@ -1,6 +1,7 @@
 package spy_test
 
 import (
+	"math/rand"
 	"slices"
 	"testing"
 
@@ -160,5 +161,59 @@ func TestMem(t *testing.T) {
 	want := []api.Act{spy.Load(0), spy.Add(1, -2), spy.CAS(1, 3, 9), spy.Store(0, 6), spy.Reserve(2), spy.Load(1), spy.Load(0), spy.Store(0, 1), spy.CAS(0, 1, 2), spy.Add(0, 1), spy.Reserve(1)}
 	if !slices.Equal(s.Asked, want) {
 		t.Errorf("asked for %v, want %v", s.Asked, want)
+	}
+}
+
+// A routine goes on from wait to wait, and is left where it stands.
+func TestRoutine(t *testing.T) {
+	var did []int
+	r := spy.Begin(func(wait func()) {
+		for i := range 3 {
+			did = append(did, i)
+			wait()
+		}
+		did = append(did, 9)
+	})
+	for n, want := range [][]int{{0}, {0, 1}, {0, 1, 2}, {0, 1, 2, 9}} {
+		if n > 0 && r.Pick() != (n < 3) || !slices.Equal(did, want) {
+			t.Errorf("behind %d picks it did %v, want %v", n, did, want)
+		}
+	}
+	if r.Pick() {
+		t.Errorf("a pick behind the end")
+	}
+	r.Stop()
+
+	left := false
+	r = spy.Begin(func(wait func()) {
+		defer func() { left = true }()
+		wait()
+		t.Errorf("it went on, but was stopped")
+	})
+	if r.Stop(); !left || r.Pick() {
+		t.Errorf("it was stopped, and stays")
+	}
+	defer func() {
+		if x := recover(); x != "its own" {
+			t.Errorf("the panic %v", x)
+		}
+	}()
+	spy.Begin(func(func()) { panic("its own") })
+}
+
+func TestPicks(t *testing.T) {
+	rng := rand.New(rand.NewSource(3))
+	low, high := 0, 0
+	for n := range 300 {
+		picks := spy.Picks(rng.Intn, n, 1+n%9)
+		if len(picks) != n {
+			t.Errorf("%d picks, want %d", len(picks), n)
+		}
+		for _, x := range picks {
+			low, high = min(low, x), max(high, x)
+		}
+	}
+	if low > -1<<60 || high < 1<<60 {
+		t.Errorf("all picks are from %d to %d", low, high)
 	}
 }
