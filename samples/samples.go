@@ -31,6 +31,18 @@ func Fib() api.Program {
 		asm.Load(1, 0), asm.Load(2, 1), asm.Arith(0, 1, api.Add, 2), asm.Return(0), asm.Return(0)))
 }
 
+// Five is the program of chapter 11's example 1: a constant.
+func Five() api.Program {
+	return asm.Program(asm.Func(0, 1, 0, asm.Const(0, 5), asm.Return(0)))
+}
+
+// One is the program of chapter 11's example 3: one child, which gives its argument back.
+func One() api.Program {
+	return asm.Program(
+		asm.Func(1, 2, 1, asm.Spawn(0, 1, 0), asm.Sync(), asm.Load(1, 0), asm.Return(1)),
+		asm.Func(1, 1, 0, asm.Return(0)))
+}
+
 // Count counts its argument down to 0, by one task without children.
 func Count() api.Program {
 	return asm.Program(asm.Func(1, 2, 0, asm.Const(1, 1), asm.Arith(0, 0, api.Sub, 1), asm.Branch(0, 1), asm.Return(0)))

@@ -13,7 +13,7 @@ import (
 // All programs are valid, those of the document and those that are drawn; all kinds of instructions are drawn, and no IPed where none is asked for.
 func TestValid(t *testing.T) {
 	r := rand.New(rand.NewSource(1))
-	programs := []api.Program{samples.Sum(), samples.Pair(), samples.Fib(), samples.Count()}
+	programs := []api.Program{samples.Sum(), samples.Pair(), samples.Fib(), samples.Five(), samples.One(), samples.Count()}
 	for range 2000 {
 		programs = append(programs, samples.Draw(r.Intn, true))
 	}
@@ -74,5 +74,28 @@ func TestCopied(t *testing.T) {
 		if samples.Untouched(q, p) || !reflect.DeepEqual(p, samples.Pair()) {
 			t.Errorf("change %d does not show, or shows in %v", k, p)
 		}
+	}
+}
+
+// A job that is drawn may be run: nothing of it is refused.
+func TestJob(t *testing.T) {
+	r := rand.New(rand.NewSource(2))
+	narrow := 0
+	for range 1000 {
+		j := samples.Job(r.Intn, 50)
+		valid(t, j.P)
+		lim := j.Lim
+		if len(j.Args) != j.P.Funcs[0].Params || j.Workers < 1 || j.Workers > api.MaxWorkers || len(j.S.Picks) >= 50 {
+			t.Fatalf("the job %+v", j)
+		}
+		if lim.Frames < 1 || lim.Frames > api.MaxFrames || lim.First < 1 || lim.Most < lim.First || lim.Most > api.MaxDeque {
+			t.Fatalf("the limits %+v", lim)
+		}
+		if lim.Frames < 8 {
+			narrow++
+		}
+	}
+	if narrow < 100 {
+		t.Errorf("only %d of the limits are narrow", narrow)
 	}
 }

@@ -18,7 +18,7 @@ func TestGoroutines(t *testing.T) {
 	for _, c := range []struct {
 		p api.Program
 		n int64
-	}{{samples.Fib(), 9}, {samples.Sum(), 60}, {samples.Count(), 50}, {one(), 4}, {samples.Fib(), 5}} {
+	}{{samples.Fib(), 9}, {samples.Sum(), 60}, {samples.Count(), 50}, {samples.One(), 4}, {samples.Fib(), 5}} {
 		v, err := serial.Eval(c.p, []int64{c.n}, api.MaxFuel)
 		if err != api.OK {
 			t.Fatal(err)

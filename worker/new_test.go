@@ -79,20 +79,20 @@ func TestNewRefusals(t *testing.T) {
 	}{
 		{job{api.Program{}, []int64{1}, 0, api.Limits{}}, api.ErrProgram},
 		{job{open, nil, 1, small}, api.ErrProgram},
-		{job{asm.Program(append(five().Funcs, open.Funcs...)...), []int64{1}, 65, api.Limits{}}, api.ErrProgram},
-		{job{five(), []int64{1}, 0, api.Limits{}}, api.ErrArity},
-		{job{one(), nil, 0, api.Limits{}}, api.ErrArity},
-		{job{one(), []int64{1, 2}, 1, small}, api.ErrArity},
+		{job{asm.Program(append(samples.Five().Funcs, open.Funcs...)...), []int64{1}, 65, api.Limits{}}, api.ErrProgram},
+		{job{samples.Five(), []int64{1}, 0, api.Limits{}}, api.ErrArity},
+		{job{samples.One(), nil, 0, api.Limits{}}, api.ErrArity},
+		{job{samples.One(), []int64{1, 2}, 1, small}, api.ErrArity},
 	} {
 		checkRefusal(t, c.job, c.err)
 	}
 	for _, workers := range noWorkers {
-		checkRefusal(t, job{five(), nil, workers, api.Limits{}}, api.ErrWorkers)
-		checkRefusal(t, job{five(), nil, workers, small}, api.ErrWorkers)
+		checkRefusal(t, job{samples.Five(), nil, workers, api.Limits{}}, api.ErrWorkers)
+		checkRefusal(t, job{samples.Five(), nil, workers, small}, api.ErrWorkers)
 	}
 	for _, lim := range noLimits {
-		checkRefusal(t, job{five(), nil, 1, lim}, api.ErrLimits)
-		checkRefusal(t, job{one(), []int64{0}, 64, lim}, api.ErrLimits)
+		checkRefusal(t, job{samples.Five(), nil, 1, lim}, api.ErrLimits)
+		checkRefusal(t, job{samples.One(), []int64{0}, 64, lim}, api.ErrLimits)
 	}
 }
 
@@ -115,7 +115,7 @@ func TestNewAccesses(t *testing.T) {
 	want = append(want, spy.Reserve(6), spy.Store(45, 46), spy.Store(46, 2))
 	want = append(want, spy.Reserve(6), spy.Store(51, 52), spy.Store(52, 2))
 	want = append(want, spy.Add(8, 1))
-	j := job{one(), []int64{4}, 2, limits(3, 2, 9)}
+	j := job{samples.One(), []int64{4}, 2, limits(3, 2, 9)}
 	behind := func(refuse int) *spy.Mem {
 		a := arena(t, 200)
 		a.Reserve(7)
@@ -139,14 +139,14 @@ func TestNewAccesses(t *testing.T) {
 func TestNewRoom(t *testing.T) {
 	// what New reserves is less than Need, as the deques have not grown yet
 	for size, want := range map[int]api.Errno{0: api.ErrRoom, 1: api.ErrRoom, 41: api.ErrRoom, 57: api.ErrRoom, 58: api.OK, 59: api.OK} {
-		if w, err := worker.New(arena(t, size), five(), nil, 2, small); err != want || (w == nil) != (err != api.OK) {
+		if w, err := worker.New(arena(t, size), samples.Five(), nil, 2, small); err != want || (w == nil) != (err != api.OK) {
 			t.Errorf("11.1: %d cells: %d, want %d", size, err, want)
 		}
 	}
 	var noArena *cells.Arena
 	var noShared *cells.Shared
 	for _, m := range []cells.Mem{noArena, noShared} {
-		if w, err := worker.New(m, five(), nil, 1, small); w != nil || err != api.ErrRoom {
+		if w, err := worker.New(m, samples.Five(), nil, 1, small); w != nil || err != api.ErrRoom {
 			t.Errorf("11.1: a memory that is not there: %v, %d", w, err)
 		}
 	}

@@ -6,20 +6,10 @@ import (
 	"testing"
 
 	"plunder/api"
-	"plunder/asm"
+	"plunder/laws"
 	"plunder/samples"
-	"plunder/spy"
 	"plunder/worker"
 )
-
-// five is the program of example 1, one that of example 3.
-func five() api.Program {
-	return asm.Program(asm.Func(0, 1, 0, asm.Const(0, 5), asm.Return(0)))
-}
-
-func one() api.Program {
-	return asm.Program(asm.Func(1, 2, 1, asm.Spawn(0, 1, 0), asm.Sync(), asm.Load(1, 0), asm.Return(1)), asm.Func(1, 1, 0, asm.Return(0)))
-}
 
 var small = api.Limits{Frames: 4, First: 2, Most: 4}
 
@@ -45,7 +35,7 @@ func access(who, kind, addr int, a, b int64) api.Access {
 
 // 11.8: example 1.
 func TestExampleAlone(t *testing.T) {
-	events, log := play(t, job{five(), nil, 1, small}, api.Script{Picks: rep(5, 0)})
+	events, log := play(t, job{samples.Five(), nil, 1, small}, api.Script{Picks: rep(5, 0)})
 	if want := []api.Event{{Kind: api.EvStart, X: -1, V: 1}, {At: 2, Kind: api.EvFinish, X: -1, V: 5}, {At: 3, Kind: api.EvHalt}}; !slices.Equal(events, want) {
 		t.Errorf("example 1: %v, want %v", events, want)
 	}
@@ -57,7 +47,7 @@ func TestExampleAlone(t *testing.T) {
 
 // 11.8: example 2. Each attempt draws anew, and 0 is drawn behind the last draw.
 func TestExampleHunt(t *testing.T) {
-	events, log := play(t, job{five(), nil, 2, small}, api.Script{Picks: rep(4, 1), Draws: []int{3}})
+	events, log := play(t, job{samples.Five(), nil, 2, small}, api.Script{Picks: rep(4, 1), Draws: []int{3}})
 	want := []api.Access{access(1, api.AcLoad, 46, 0, 0), access(1, api.AcLoad, 47, 0, 0), access(1, api.AcLoad, 43, 0, 0), access(1, api.AcLoad, 46, 0, 0)}
 	if len(events) != 0 || !slices.Equal(log, want) {
 		t.Errorf("example 2: %v, %v, want %v", events, log, want)
@@ -66,7 +56,7 @@ func TestExampleHunt(t *testing.T) {
 
 // 11.8: example 3, access by access.
 func TestExampleChild(t *testing.T) {
-	events, log := play(t, job{one(), []int64{9}, 1, small}, api.Script{Picks: rep(60, 0)})
+	events, log := play(t, job{samples.One(), []int64{9}, 1, small}, api.Script{Picks: rep(60, 0)})
 	wantEvents := []api.Event{
 		{At: 0, Kind: api.EvStart, X: -1, V: 1}, {At: 8, Kind: api.EvSpawn, Frame: 1, V: 1000004}, {At: 10, Kind: api.EvWait},
 		{At: 19, Kind: api.EvStart, Frame: 1, X: -1, V: 1}, {At: 20, Kind: api.EvFinish, Frame: 1, V: 9}, {At: 22, Kind: api.EvResume, X: 1},
@@ -92,7 +82,7 @@ func TestExampleChild(t *testing.T) {
 
 // 11.8: example 4, and a deque that holds the most. The play ends with that step, whoever made it.
 func TestExampleFull(t *testing.T) {
-	events, log := play(t, job{one(), []int64{9}, 1, api.Limits{Frames: 1, First: 2, Most: 4}}, api.Script{Picks: rep(60, 0)})
+	events, log := play(t, job{samples.One(), []int64{9}, 1, api.Limits{Frames: 1, First: 2, Most: 4}}, api.Script{Picks: rep(60, 0)})
 	if want := []api.Event{{Kind: api.EvStart, X: -1, V: 1}, {At: 1, Kind: api.EvFull, Frame: -1}}; !slices.Equal(events, want) || len(log) != 2 {
 		t.Errorf("example 4: %v, %v, want %v", events, log, want)
 	}
@@ -115,14 +105,14 @@ func TestPlayRefusals(t *testing.T) {
 	}{
 		{job{api.Program{}, []int64{1}, 0, none}, api.Script{Picks: long}, api.ErrLong},
 		{job{api.Program{}, []int64{1}, 0, none}, api.Script{Draws: long}, api.ErrLong},
-		{job{five(), nil, 1, small}, api.Script{Draws: long}, api.ErrLong},
+		{job{samples.Five(), nil, 1, small}, api.Script{Draws: long}, api.ErrLong},
 		{job{api.Program{}, []int64{1}, 0, none}, api.Script{Picks: most, Draws: most}, api.ErrProgram},
-		{job{five(), []int64{1}, 0, none}, api.Script{}, api.ErrArity},
-		{job{five(), nil, 0, none}, api.Script{}, api.ErrWorkers},
-		{job{five(), nil, 65, none}, api.Script{}, api.ErrWorkers},
-		{job{five(), nil, 64, none}, api.Script{}, api.ErrLimits},
-		{job{five(), nil, 64, api.Limits{Frames: 4096, First: 15, Most: 4096}}, api.Script{Picks: most, Draws: most}, api.OK},
-		{job{five(), nil, 1, small}, api.Script{}, api.OK},
+		{job{samples.Five(), []int64{1}, 0, none}, api.Script{}, api.ErrArity},
+		{job{samples.Five(), nil, 0, none}, api.Script{}, api.ErrWorkers},
+		{job{samples.Five(), nil, 65, none}, api.Script{}, api.ErrWorkers},
+		{job{samples.Five(), nil, 64, none}, api.Script{}, api.ErrLimits},
+		{job{samples.Five(), nil, 64, api.Limits{Frames: 4096, First: 15, Most: 4096}}, api.Script{Picks: most, Draws: most}, api.OK},
+		{job{samples.Five(), nil, 1, small}, api.Script{}, api.OK},
 	} {
 		events, log, err := worker.Play(c.p, c.args, c.workers, c.lim, c.s)
 		if err != c.err || err != api.OK && (events != nil || log != nil) {
@@ -135,7 +125,7 @@ func TestPlayRefusals(t *testing.T) {
 func TestPlayBehindHalts(t *testing.T) {
 	// worker 0: start, constant, RESULT, DONE, the flag of worker 1; then it is picked on; worker 1: two loads, a peek
 	s := api.Script{Picks: slices.Concat(rep(5, 0), rep(7, 2), rep(3, -1), rep(9, 0, 1))}
-	events, log := play(t, job{five(), nil, 2, small}, s)
+	events, log := play(t, job{samples.Five(), nil, 2, small}, s)
 	want := []api.Event{{Kind: api.EvStart, X: -1, V: 1}, {At: 2, Kind: api.EvFinish, X: -1, V: 5}, {At: 4, Kind: api.EvHalt}, {At: 14, Who: 1, Kind: api.EvHalt}}
 	if !slices.Equal(events, want) || len(log) != 7 {
 		t.Errorf("11.8: %v, %d accesses, want %v, 7", events, len(log), want)
@@ -164,26 +154,19 @@ func TestPlayMemory(t *testing.T) {
 	}
 }
 
-// drawn is a job with a drawn program, and a script for it.
+// drawn is a job that is drawn, and a script for it.
 func drawn(r *rand.Rand, picks int) (job, api.Script) {
-	j := job{p: samples.Draw(r.Intn, r.Intn(2) == 0), workers: 1 + r.Intn(5)}
-	if r.Intn(3) == 0 {
-		j.p = []api.Program{samples.Fib(), samples.Sum(), samples.Pair(), one(), samples.Count()}[r.Intn(5)]
+	j := samples.Job(r.Intn, picks)
+	return job{j.P, j.Args, j.Workers, j.Lim}, j.S
+}
+
+// lawful: P2, P3, 11.10, 11.11 and what else is said of events.
+func lawful(t *testing.T, j job, s api.Script, events []api.Event) {
+	t.Helper()
+	laws.Check(t, api.Job{P: j.p, Args: j.args, Workers: j.workers, Lim: j.lim, S: s}, events)
+	if t.Failed() {
+		t.FailNow()
 	}
-	if r.Intn(20) == 0 {
-		j.workers = 1 + r.Intn(64)
-	}
-	j.args = samples.Args(r.Intn, j.p)
-	j.lim = api.Limits{Frames: 1 + r.Intn(1<<r.Intn(8)), First: 1 + r.Intn(3)}
-	j.lim.Most = j.lim.First + r.Intn(1<<r.Intn(7))
-	if r.Intn(2) == 0 {
-		j.lim = api.Limits{Frames: 4096, First: j.lim.First, Most: 4096}
-	}
-	s := api.Script{Picks: spy.Picks(r.Intn, r.Intn(picks), j.workers)}
-	for range r.Intn(40) {
-		s.Draws = append(s.Draws, int(r.Uint64()>>r.Intn(64)))
-	}
-	return j, s
 }
 
 // 11.8: drawn plays.
@@ -193,7 +176,7 @@ func TestPlayDrawn(t *testing.T) {
 	for range 3000 {
 		j, s := drawn(r, 1500)
 		events, _ := play(t, j, s)
-		lawful(t, j, events)
+		lawful(t, j, s, events)
 		for _, e := range events {
 			seen[e.Kind]++
 		}
@@ -207,7 +190,7 @@ func TestPlayDrawn(t *testing.T) {
 
 // 11.8: all orders of two workers' steps around the end of a child and its parent's sync.
 func TestPlayAllOrders(t *testing.T) {
-	j := job{one(), []int64{7}, 2, small}
+	j := job{samples.One(), []int64{7}, 2, small}
 	ahead := slices.Concat(rep(9, 0), rep(7, 1)) // the child has been pushed, stolen and started; not yet: the wake, and the sync
 	const free = 11
 	for bits := range 1 << free {
@@ -215,13 +198,15 @@ func TestPlayAllOrders(t *testing.T) {
 		for k := range free {
 			picks = append(picks, bits>>k&1)
 		}
-		lawful(t, j, first(play(t, j, api.Script{Picks: append(picks, rep(30, 0, 1)...)})))
+		s := api.Script{Picks: append(picks, rep(30, 0, 1)...)}
+		events, _ := play(t, j, s)
+		lawful(t, j, s, events)
 	}
 }
 
 // 11.8: all orders of a push and a wake by one with the rest of another.
 func TestPlayAllRests(t *testing.T) {
-	j := job{one(), []int64{7}, 2, small}
+	j := job{samples.One(), []int64{7}, 2, small}
 	ahead := slices.Concat(rep(5, 0), rep(9, 1)) // the push has loaded TOP; the other one has hunted three times
 	const free = 12
 	for bits := range 1 << free {
@@ -229,8 +214,8 @@ func TestPlayAllRests(t *testing.T) {
 		for k := range free {
 			picks = append(picks, bits>>k&1)
 		}
-		lawful(t, j, first(play(t, j, api.Script{Picks: append(picks, rep(40, 0, 1)...)})))
+		s := api.Script{Picks: append(picks, rep(40, 0, 1)...)}
+		events, _ := play(t, j, s)
+		lawful(t, j, s, events)
 	}
 }
-
-func first(events []api.Event, _ []api.Access) []api.Event { return events }

@@ -154,7 +154,7 @@ func TestStepsRefused(t *testing.T) {
 
 // 11.4: each access of a run of two workers is refused in turn. The worker is full with no event, still holds what it held, and asks for nothing more.
 func TestEachRefused(t *testing.T) {
-	j := job{one(), []int64{3}, 2, limits(2, 1, 1)}
+	j := job{samples.One(), []int64{3}, 2, limits(2, 1, 1)}
 	for n := range 70 {
 		x := pair(t, j, nil, 200)
 		x.refuse(n)
@@ -188,7 +188,7 @@ func TestNoRoomToGrow(t *testing.T) {
 // 11.4: what is refused does nothing, and does not draw.
 func TestStepRefusals(t *testing.T) {
 	m := spy.New(arena(t, 100))
-	w, _ := worker.New(m, five(), nil, 2, small)
+	w, _ := worker.New(m, samples.Five(), nil, 2, small)
 	asked := len(m.Asked)
 	draws := &counted{Rand: script.List(nil)}
 	var nobody *worker.World
@@ -227,7 +227,7 @@ func TestStepRefusals(t *testing.T) {
 // 11.4: V of EvStart is the new mark, whatever it is.
 func TestMarks(t *testing.T) {
 	for _, mark := range []int64{0, 1, 41, -1, math.MaxInt64} {
-		x := pair(t, job{five(), nil, 1, small}, nil, 100)
+		x := pair(t, job{samples.Five(), nil, 1, small}, nil, 100)
 		x.meddle(x.m.table.Base+2, mark)
 		if e := x.step(0); e != (api.Event{Kind: api.EvStart, X: -1, V: mark + 1}) {
 			t.Errorf("11.4: MARK was %d: %v", mark, e)
@@ -237,7 +237,7 @@ func TestMarks(t *testing.T) {
 
 // 11.4: one that has halted does nothing more, whatever it is asked.
 func TestHaltedIdles(t *testing.T) {
-	x := pair(t, job{five(), nil, 3, small}, nil, 200)
+	x := pair(t, job{samples.Five(), nil, 3, small}, nil, 200)
 	for k := range 60 {
 		x.step([]int{1, 1, 0, 2, 2}[k%5])
 	}
@@ -258,7 +258,7 @@ func TestVictims(t *testing.T) {
 		for i := 1; i < workers; i++ {
 			for _, d := range []int{0, 1, 2, 3, 61, 62, 63, 64, -1, -2, -63, math.MaxInt, math.MaxInt - 1, math.MinInt, math.MinInt + 1} {
 				m := spy.New(arena(t, 1000))
-				w, _ := worker.New(m, five(), nil, workers, limits(1, 1, 1))
+				w, _ := worker.New(m, samples.Five(), nil, workers, limits(1, 1, 1))
 				w.Step(i, script.List([]int{d}))
 				victim := (i + 1 + ops.Mod(d, workers-1)) % workers
 				want := spy.Load(1 + 11 + 2 + workers + 5*victim)
@@ -272,7 +272,7 @@ func TestVictims(t *testing.T) {
 
 // 11.4: one worker alone whose child has gone: it rests instead of hunting, and draws nothing. (Only another hand can have taken the child.)
 func TestAloneRests(t *testing.T) {
-	x := pair(t, job{one(), []int64{3}, 1, small}, nil, 200)
+	x := pair(t, job{samples.One(), []int64{3}, 1, small}, nil, 200)
 	for range 11 {
 		x.step(0)
 	}
@@ -335,7 +335,7 @@ func TestAttempts(t *testing.T) {
 
 // 11.4: a thief that has lost, and finds at its peek that all is done.
 func TestLostAndDone(t *testing.T) {
-	x := pair(t, job{one(), []int64{3}, 3, small}, []int{1, 0}, 200)
+	x := pair(t, job{samples.One(), []int64{3}, 3, small}, []int{1, 0}, 200)
 	for range 10 {
 		x.step(0)
 	}
