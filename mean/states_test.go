@@ -119,38 +119,13 @@ func TestOrder(t *testing.T) {
 	faults(t, "15.5", "fn main(a) { let x = f(); return a; } fn f() { let x = 1; return x; } fn g(b) { let x = 1; if b { let a = 1; } return a; }", api.ErrUnset, 2, 3)
 }
 
-// shorts makes all rows of so many statements, those within blocks counted.
+// shorts makes all rows of so many statements.
 func shorts(n int) [][]api.Stmt {
-	if n == 0 {
-		return [][]api.Stmt{nil}
-	}
 	a, x := api.Expr{Kind: api.EName, Name: "a"}, api.Expr{Kind: api.EName, Name: "x"}
 	child := api.Expr{Kind: api.ECall, Name: "main", Kids: []api.Expr{{K: 0}}}
-	var all [][]api.Stmt
-	put := func(s api.Stmt, behind [][]api.Stmt) {
-		for _, row := range behind {
-			all = append(all, append([]api.Stmt{s}, row...))
-		}
-	}
-	for _, s := range []api.Stmt{
-		{Kind: api.SLet, Name: "x"}, {Kind: api.SSet, Name: "x", E: a}, {Kind: api.SSpawn, Name: "x", E: child}, {Kind: api.SSpawn, Name: "a", E: child}, {Kind: api.SSync},
-		{Kind: api.SDo, E: x}, {Kind: api.SReturn, E: a}, {Kind: api.SBreak}, {Kind: api.SContinue},
-	} {
-		put(s, shorts(n-1))
-	}
-	for in := range n {
-		for _, body := range shorts(in) {
-			put(api.Stmt{Kind: api.SWhile, E: a, Body: body}, shorts(n-1-in))
-		}
-		for other := range n - in {
-			for _, body := range shorts(in) {
-				for _, els := range shorts(other) {
-					put(api.Stmt{Kind: api.SIf, E: a, Body: body, Else: els}, shorts(n-1-in-other))
-				}
-			}
-		}
-	}
-	return all
+	return sources.Rows(n, a,
+		api.Stmt{Kind: api.SLet, Name: "x"}, api.Stmt{Kind: api.SSet, Name: "x", E: a}, api.Stmt{Kind: api.SSpawn, Name: "x", E: child}, api.Stmt{Kind: api.SSpawn, Name: "a", E: child}, api.Stmt{Kind: api.SSync},
+		api.Stmt{Kind: api.SDo, E: x}, api.Stmt{Kind: api.SReturn, E: a}, api.Stmt{Kind: api.SBreak}, api.Stmt{Kind: api.SContinue})
 }
 
 // 15.7, 15.15, 15.16: all functions of few statements, with some behind them or not.

@@ -127,3 +127,30 @@ func TestCopied(t *testing.T) {
 		}
 	}
 }
+
+// Rows makes all rows, each but once: ifs and whiles with every way to share the statements among their blocks and what is behind them.
+func TestRows(t *testing.T) {
+	plain := []api.Stmt{{Kind: api.SSync}, {Kind: api.SBreak}, {Kind: api.SContinue}}
+	condition := api.Expr{Kind: api.EName, Name: "a"}
+	// w(n) rows: w(n-1) for each plain one; of a while all ways to part n-1 statements in two, of an if in three
+	for n, want := range []int{1, 5, 40, 420} {
+		rows := sources.Rows(n, condition, plain...)
+		texts := map[string]int{}
+		for _, row := range rows {
+			src, err := text.Print(api.Source{Fns: []api.Fn{{Name: "main", Body: row}}})
+			stmts := map[int]int{}
+			count(row, stmts, map[int]int{})
+			total := 0
+			for _, k := range stmts {
+				total += k
+			}
+			if err != api.OK || total != n {
+				t.Fatalf("%v: %d, %d statements, want %d", row, err, total, n)
+			}
+			texts[src]++
+		}
+		if len(rows) != want || len(texts) != want {
+			t.Errorf("%d rows of %d statements, %d of them unlike, want %d", len(rows), n, len(texts), want)
+		}
+	}
+}
